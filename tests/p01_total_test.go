@@ -1,8 +1,9 @@
 package tests
 
 import (
-	"fmt"
+	"cmp"
 	"math"
+	"math/rand"
 	"reflect"
 	"slices"
 	"strings"
@@ -14,8 +15,8 @@ import (
 // edgeInts are integers at and around the limits of the chapters, and the extreme ones.
 var edgeInts = []int64{
 	math.MinInt64, math.MinInt64 + 1, -65536, -256, -2, -1, 0, 1, 2, 3, 6, 7, 8, 9, 10, 11, 12, 63, 64,
-	70, 71, 72, 73, 127, 128, 255, 256, 257, 300, 16383, 16384, 65533, 65534, 65535, 65536, 65537,
-	1 << 31, 1 << 32, math.MaxInt64 - 1, math.MaxInt64,
+	70, 71, 72, 73, 90, 91, 92, 127, 128, 255, 256, 257, 300, 16383, 16384, 65533, 65534, 65535, 65536, 65537,
+	727, 728, 1000000, 1000001, 1 << 31, 1 << 32, math.MaxInt64 - 1, math.MaxInt64,
 }
 
 // edgeStrings are strings that are empty, malformed, not UTF-8, or at and around the limits of the
@@ -26,10 +27,10 @@ func edgeStrings() []string {
 		"123456789", "codeword", "\xff\xff\xff\xff\xff\xff\xff\xff\x7f",
 		"\xff\xff\xff\xff\xff\xff\xff\xff\x7fabc", "\x80\x80\x80\x80\x80\x80\x80\x80\x80\x01",
 	}
-	for _, size := range []int{7, 8, 9, 10, 16, 127, 128, 255, 256, 257, 264, 70000} {
+	for _, size := range []int{7, 8, 9, 10, 15, 16, 17, 63, 64, 65, 90, 91, 92, 127, 128, 255, 256, 257, 264, 70000} {
 		list = append(list, strings.Repeat("\xff", size), strings.Repeat("\x80", size))
 	}
-	return list
+	return append(list, sealedByDefinition(strings.Repeat("codeword", 8), "spare bytes 0123", 7))
 }
 
 // edgeIntLists are lists that are empty, not increasing, with elements out of every bound, or too
@@ -56,102 +57,217 @@ func withSpare[T any](list []T, spare T) []T {
 	return room[:len(list)]
 }
 
-// edgeValues returns the edge values of a type of parameters. Each call returns new memory.
-func edgeValues(t *testing.T, kind reflect.Type) []reflect.Value {
-	t.Helper()
+// maxLists is the number of argument lists with which a function is called at most.
+const maxLists = 25000
+
+// edgeGeometries are geometries at and around the limits, and some whose product overflows.
+var edgeGeometries = []impl.Geometry{
+	{}, {Dies: 2, Blocks: 4, Pages: 8}, {Dies: 3, Blocks: 12, Pages: 16}, {Dies: 2, Blocks: 4, Pages: 12}, {Dies: 1, Blocks: 4, Pages: 8},
+	{Dies: 4, Blocks: 4, Pages: 8}, {Dies: 2, Blocks: 3, Pages: 8}, {Dies: 2, Blocks: 13, Pages: 8}, {Dies: -2, Blocks: -4, Pages: 8},
+	{Dies: 1 << 32, Blocks: 1 << 32, Pages: 8}, {Dies: math.MaxInt64, Blocks: math.MaxInt64, Pages: math.MaxInt64},
+	{Dies: math.MinInt64, Blocks: math.MinInt64, Pages: math.MinInt64},
+}
+
+// edgeFlashes returns valid and invalid arrays whose slices have unused capacity.
+func edgeFlashes() []impl.Flash {
+	var list []impl.Flash
+	for _, s := range append(validFlashes(), invalidFlashes()...) {
+		f := deepCopy(s.f)
+		f.Blocks = withSpare(f.Blocks, impl.Block{Erases: 12345})
+		for i := range f.Blocks {
+			f.Blocks[i].Pages = withSpare(f.Blocks[i].Pages, "spare")
+		}
+		list = append(list, f)
+	}
+	return list
+}
+
+// valuesOf returns the elements of a list.
+func valuesOf[T any](list []T) []reflect.Value {
 	var values []reflect.Value
-	switch kind {
-	case reflect.TypeFor[int64]():
-		for _, n := range edgeInts {
-			values = append(values, reflect.ValueOf(n))
-		}
-	case reflect.TypeFor[string]():
-		for _, s := range edgeStrings() {
-			values = append(values, reflect.ValueOf(s))
-		}
-	case reflect.TypeFor[[]int64]():
-		for _, list := range edgeIntLists {
-			values = append(values, reflect.ValueOf(withSpare(list, 12345)))
-		}
-	case reflect.TypeFor[[]string]():
-		for _, list := range edgeStringLists() {
-			values = append(values, reflect.ValueOf(withSpare(list, "spare")))
-		}
-	default:
-		t.Fatalf("no edge values for parameters of type %v", kind)
+	for _, v := range list {
+		values = append(values, reflect.ValueOf(v))
 	}
 	return values
 }
 
-// argumentLists returns all lists of edge values for the parameters of a function.
+// edgeValues returns the edge values of a type of parameters. Each call returns new memory.
+func edgeValues(t *testing.T, kind reflect.Type) []reflect.Value {
+	t.Helper()
+	switch kind {
+	case reflect.TypeFor[int64]():
+		return valuesOf(edgeInts)
+	case reflect.TypeFor[string]():
+		return valuesOf(edgeStrings())
+	case reflect.TypeFor[[]int64]():
+		var lists [][]int64
+		for _, list := range edgeIntLists {
+			lists = append(lists, withSpare(list, 12345))
+		}
+		return valuesOf(lists)
+	case reflect.TypeFor[[]string]():
+		var lists [][]string
+		for _, list := range edgeStringLists() {
+			lists = append(lists, withSpare(list, "spare"))
+		}
+		return valuesOf(lists)
+	case reflect.TypeFor[impl.Geometry]():
+		return valuesOf(edgeGeometries)
+	case reflect.TypeFor[impl.Flash]():
+		return valuesOf(edgeFlashes())
+	}
+	t.Fatalf("no edge values for parameters of type %v", kind)
+	return nil
+}
+
+// argumentLists returns all lists of edge values for the parameters of a function, or a random
+// choice if these are too many.
 func argumentLists(t *testing.T, f reflect.Type) [][]reflect.Value {
 	t.Helper()
-	lists := [][]reflect.Value{nil}
+	all := 1
+	var choices [][]reflect.Value
 	for i := range f.NumIn() {
-		values := edgeValues(t, f.In(i))
-		var longer [][]reflect.Value
-		for _, list := range lists {
-			for _, v := range values {
-				longer = append(longer, append(list[:len(list):len(list)], v))
-			}
+		choices = append(choices, edgeValues(t, f.In(i)))
+		all *= len(choices[i])
+	}
+	r := rand.New(rand.NewSource(40))
+	var lists [][]reflect.Value
+	for n := range min(all, maxLists) {
+		if all > maxLists {
+			n = r.Intn(all)
 		}
-		lists = longer
+		var list []reflect.Value
+		for _, values := range choices {
+			list = append(list, values[n%len(values)])
+			n /= len(values)
+		}
+		lists = append(lists, list)
 	}
 	return lists
 }
 
-// whole returns a slice with its unused capacity, and any other value as it is.
-func whole(v reflect.Value) reflect.Value {
-	if v.Kind() == reflect.Slice {
-		return v.Slice(0, v.Cap())
+// copyValue returns a copy of a value with memory of its own. If spare is set each slice has the
+// length of its capacity, so that a comparison shows what is behind its end.
+func copyValue(v reflect.Value, spare bool) reflect.Value {
+	switch v.Kind() {
+	case reflect.Slice:
+		if spare {
+			v = v.Slice(0, v.Cap())
+		}
+		out := reflect.MakeSlice(v.Type(), v.Len(), v.Len())
+		reflect.Copy(out, v)
+		if kind := v.Type().Elem().Kind(); kind == reflect.Slice || kind == reflect.Struct {
+			for i := range v.Len() {
+				out.Index(i).Set(copyValue(v.Index(i), spare))
+			}
+		}
+		return out
+	case reflect.Struct:
+		out := reflect.New(v.Type()).Elem()
+		for i := range v.NumField() {
+			out.Field(i).Set(copyValue(v.Field(i), spare))
+		}
+		return out
 	}
 	return v
 }
 
-// copies returns copies of values; a copy of a slice has its unused capacity too.
+// deepCopy returns a copy of a value with memory of its own.
+func deepCopy[T any](v T) T {
+	return copyValue(reflect.ValueOf(v), false).Interface().(T)
+}
+
+// copies returns copies of values with the unused capacity of their slices.
 func copies(values []reflect.Value) []any {
 	var out []any
 	for _, v := range values {
-		v = whole(v)
-		if v.Kind() == reflect.Slice {
-			all := reflect.MakeSlice(v.Type(), v.Len(), v.Len())
-			reflect.Copy(all, v)
-			v = all
-		}
-		out = append(out, v.Interface())
+		out = append(out, copyValue(v, true).Interface())
 	}
 	return out
 }
 
-// overwrite clears the slices among results, with their unused capacity, so that memory that they
-// share with an argument or with a later result shows.
-func overwrite(results []reflect.Value) {
-	for _, v := range results {
-		if v.Kind() == reflect.Slice {
-			whole(v).Clear()
-		}
-	}
+// memory is the memory of a slice with its unused capacity, from one address to before another one.
+type memory struct {
+	from, to uintptr
 }
 
-// resultsOf calls f and returns copies of its results, or fails the test if f panics.
-func resultsOf(t *testing.T, name string, f reflect.Value, args []reflect.Value) []any {
+// memoryOf returns the memory of all slices of values.
+func memoryOf(values []reflect.Value) []memory {
+	var list []memory
+	for _, v := range values {
+		var parts []reflect.Value
+		switch v.Kind() {
+		case reflect.Slice:
+			v = v.Slice(0, v.Cap())
+			if v.Len() > 0 {
+				from := v.Pointer()
+				list = append(list, memory{from, from + uintptr(v.Len())*v.Type().Elem().Size()})
+			}
+			if kind := v.Type().Elem().Kind(); kind == reflect.Slice || kind == reflect.Struct {
+				for i := range v.Len() {
+					parts = append(parts, v.Index(i))
+				}
+			}
+		case reflect.Struct:
+			for i := range v.NumField() {
+				parts = append(parts, v.Field(i))
+			}
+		}
+		list = append(list, memoryOf(parts)...)
+	}
+	return list
+}
+
+// apart reports whether no two slices of values share memory.
+func apart(values []reflect.Value) bool {
+	list := memoryOf(values)
+	slices.SortFunc(list, func(a memory, b memory) int { return cmp.Compare(a.from, b.from) })
+	for i := 1; i < len(list); i++ {
+		if list[i].from < list[i-1].to {
+			return false
+		}
+	}
+	return true
+}
+
+// resultsOf calls f and returns its results, or fails the test if f panics.
+func resultsOf(t *testing.T, name string, f reflect.Value, args []reflect.Value) []reflect.Value {
 	t.Helper()
 	defer func() {
 		if r := recover(); r != nil {
 			t.Fatalf("%s%v panics: %v", name, args, r)
 		}
 	}()
-	results := f.Call(args)
-	var out []any
-	for _, v := range results {
-		if v.Kind() == reflect.Slice {
-			out = append(out, fmt.Sprint(v.Interface()))
-		} else {
-			out = append(out, v.Interface())
+	return f.Call(args)
+}
+
+// equalResults reports whether lists of results are equal, where a nil slice equals an empty one.
+func equalResults(a []reflect.Value, b []reflect.Value) bool {
+	for i := range a {
+		if !reflect.DeepEqual(copyValue(a[i], false).Interface(), copyValue(b[i], false).Interface()) {
+			return false
 		}
 	}
-	overwrite(results)
-	return out
+	return true
+}
+
+// callPurely calls a function twice and returns the results of the first call. It ends the test
+// after different results, modified arguments or shared memory.
+func callPurely(t *testing.T, name string, f reflect.Value, args []reflect.Value) []reflect.Value {
+	t.Helper()
+	before := copies(args)
+	first := resultsOf(t, name, f, args)
+	again := resultsOf(t, name, f, args)
+	if !equalResults(first, again) {
+		t.Fatalf("%s%v: %v, then %v", name, before, first, again)
+	}
+	if !reflect.DeepEqual(copies(args), before) {
+		t.Fatalf("%s%v modifies its arguments", name, before)
+	}
+	if !apart(slices.Concat(args, first, again)) {
+		t.Fatalf("%s%v: arguments and results share memory", name, before)
+	}
+	return first
 }
 
 // TestP1Total calls every function of the chapters that have landed with all edge values, twice.
@@ -189,19 +305,27 @@ func TestP1Total(t *testing.T) {
 		"ParityDie":     impl.ParityDie,
 		"DataDie":       impl.DataDie,
 		"UnitOn":        impl.UnitOn,
+		"SealPage":      impl.SealPage,
+		"OpenPage":      impl.OpenPage,
+		"ErasedPage":    impl.ErasedPage,
+		"IsErased":      impl.IsErased,
+		"TornPage":      impl.TornPage,
+		"DestroyedPage": impl.DestroyedPage,
+		"FlipPageBit":   impl.FlipPageBit,
+		"ValidGeometry": impl.ValidGeometry,
+		"ValidFlash":    impl.ValidFlash,
+		"SameFlash":     impl.SameFlash,
+		"NewFlash":      impl.NewFlash,
+		"ProgramPage":   impl.ProgramPage,
+		"ReadRaw":       impl.ReadRaw,
+		"EraseBlock":    impl.EraseBlock,
+		"PowerOn":       impl.PowerOn,
+		"ArmFuse":       impl.ArmFuse,
 	}
 	for name, function := range functions {
 		f := reflect.ValueOf(function)
 		for _, args := range argumentLists(t, f.Type()) {
-			before := copies(args)
-			first := resultsOf(t, name, f, args)
-			again := resultsOf(t, name, f, args)
-			if !reflect.DeepEqual(first, again) {
-				t.Errorf("%s%v: %v, then %v", name, before, first, again)
-			}
-			if !reflect.DeepEqual(copies(args), before) {
-				t.Errorf("%s%v modifies its arguments", name, before)
-			}
+			callPurely(t, name, f, args)
 		}
 	}
 }
@@ -212,12 +336,15 @@ func TestP1Order(t *testing.T) {
 	sum := impl.Checksum("abc")
 	check := impl.CheckByte("codeword")
 	parity, _ := impl.ParityOf([]string{"ab", "cd"})
+	f, _ := impl.NewFlash(impl.Geometry{Dies: 2, Blocks: 4, Pages: 8})
 	for page := range int64(50) {
 		impl.Scramble(page, "other calls")
 		impl.JumpLfsr(page+1, page)
 		impl.Checksum(impl.EncodeUvarint(page))
 		impl.DecodeErased("codeword", page, []int64{page})
 		impl.Rebuild([]string{"xy", "z"}, "vw", 1)
+		impl.ProgramPage(f, page%8, 0, impl.DestroyedPage())
+		impl.EraseBlock(f, page%8)
 	}
 	after, _ := impl.Keystream(4711, 32)
 	if before != after || sum != impl.Checksum("abc") {
@@ -225,6 +352,10 @@ func TestP1Order(t *testing.T) {
 	}
 	afterwards, _ := impl.ParityOf([]string{"ab", "cd"})
 	if parity != afterwards || check != impl.CheckByte("codeword") {
+		t.Error("a result depends on the calls before it")
+	}
+	fresh, _ := impl.NewFlash(impl.Geometry{Dies: 2, Blocks: 4, Pages: 8})
+	if !reflect.DeepEqual(f, fresh) {
 		t.Error("a result depends on the calls before it")
 	}
 }
