@@ -30,13 +30,15 @@ func edgeStrings() []string {
 	for _, size := range []int{7, 8, 9, 10, 15, 16, 17, 63, 64, 65, 90, 91, 92, 127, 128, 255, 256, 257, 264, 70000} {
 		list = append(list, strings.Repeat("\xff", size), strings.Repeat("\x80", size))
 	}
-	return append(list, sealedByDefinition(strings.Repeat("codeword", 8), "spare bytes 0123", 7))
+	table, _ := formOf(numbersOf(exampleTable()))
+	return append(list, sealedByDefinition(strings.Repeat("codeword", 8), "spare bytes 0123", 7),
+		table, withSum(table), "bit 1 2 3\ncut 7 30\n", "bit 01 2 3\n", "block 3", "block 9223372036854775808\n", strings.Repeat("block 3\n", 41))
 }
 
 // edgeIntLists are lists that are empty, not increasing, with elements out of every bound, or too
 // long.
 var edgeIntLists = [][]int64{
-	nil, {}, {0}, {71}, {72}, {-1}, {math.MinInt64}, {math.MaxInt64}, {0, 71}, {3, 40, 66}, {66, 40, 3},
+	nil, {}, {0}, {1}, {1, 4}, {3, 7}, {0, 3}, {0, 1, 2, 3, 4, 5, 6, 7}, {35}, {71}, {72}, {-1}, {math.MinInt64}, {math.MaxInt64}, {0, 71}, {3, 40, 66}, {66, 40, 3},
 	{5, 5}, {64, 65, 66}, {69, 70, 71}, {70, 71, 72}, {0, 1, 2, 3}, {math.MinInt64, 0, math.MaxInt64},
 	make([]int64, 1000),
 }
@@ -82,6 +84,42 @@ func edgeFlashes() []impl.Flash {
 	return list
 }
 
+// edgeTables returns valid and invalid tables whose slices have unused capacity.
+func edgeTables() []impl.BadTable {
+	var list []impl.BadTable
+	for _, s := range allTables() {
+		s.t.Bad = withSpare(s.t.Bad, 12345)
+		s.t.Remap = withSpare(s.t.Remap, 12345)
+		list = append(list, s.t)
+	}
+	return list
+}
+
+// someFaults are valid faults and invalid ones of each kind.
+var someFaults = []impl.Fault{
+	{}, bitFault(7, 7, 727), bitFault(8, 0, 0), bitFault(35, 15, 0), bitFault(0, 8, 0), bitFault(0, 0, 728), bitFault(-1, -1, -1),
+	disturbFault(1, 0, 9), disturbFault(1, 16, 9), retentionFault(4, 725), retentionFault(math.MaxInt64, math.MaxInt64), blockFault(0), blockFault(12),
+	cutFault(0, 0), cutFault(1000000, 91), cutFault(1000001, 92), cutFault(-1, 0), {Kind: impl.FaultRetention, Page: 1}, {Kind: impl.FaultBlock, Bit: 1}, {Kind: impl.FaultCut, Block: 1},
+	{Kind: 6}, {Kind: math.MinInt64, Block: math.MinInt64, Page: math.MinInt64, Bit: math.MinInt64},
+}
+
+// edgeScripts returns lists of faults that are scripts, and some that are too long or have an invalid
+// fault, with unused capacity.
+func edgeScripts() [][]impl.Fault {
+	r := rand.New(rand.NewSource(42))
+	list := [][]impl.Fault{nil, {}, someFaults}
+	for _, x := range someFaults {
+		list = append(list, []impl.Fault{x}, []impl.Fault{blockFault(3), x})
+	}
+	for _, size := range []int{2, 39, 40, 41, 1000} {
+		list = append(list, randomScript(r, smallGeometry, size, 5), randomScript(r, smallGeometry, size, 1))
+	}
+	for i := range list {
+		list[i] = withSpare(list[i], blockFault(7))
+	}
+	return list
+}
+
 // valuesOf returns the elements of a list.
 func valuesOf[T any](list []T) []reflect.Value {
 	var values []reflect.Value
@@ -115,6 +153,12 @@ func edgeValues(t *testing.T, kind reflect.Type) []reflect.Value {
 		return valuesOf(edgeGeometries)
 	case reflect.TypeFor[impl.Flash]():
 		return valuesOf(edgeFlashes())
+	case reflect.TypeFor[impl.BadTable]():
+		return valuesOf(edgeTables())
+	case reflect.TypeFor[impl.Fault]():
+		return valuesOf(someFaults)
+	case reflect.TypeFor[[]impl.Fault]():
+		return valuesOf(edgeScripts())
 	}
 	t.Fatalf("no edge values for parameters of type %v", kind)
 	return nil
@@ -270,59 +314,82 @@ func callPurely(t *testing.T, name string, f reflect.Value, args []reflect.Value
 	return first
 }
 
+// landedFunctions are the functions of the chapters that have landed.
+var landedFunctions = map[string]any{
+	"CodeName":      impl.CodeName,
+	"EncodeUvarint": impl.EncodeUvarint,
+	"DecodeUvarint": impl.DecodeUvarint,
+	"EncodeFixed":   impl.EncodeFixed,
+	"DecodeFixed":   impl.DecodeFixed,
+	"EncodeString":  impl.EncodeString,
+	"DecodeString":  impl.DecodeString,
+	"Checksum":      impl.Checksum,
+	"ValidState":    impl.ValidState,
+	"StepLfsr":      impl.StepLfsr,
+	"BackLfsr":      impl.BackLfsr,
+	"JumpLfsr":      impl.JumpLfsr,
+	"Keystream":     impl.Keystream,
+	"SeedFor":       impl.SeedFor,
+	"Scramble":      impl.Scramble,
+	"CountOnes":     impl.CountOnes,
+	"CheckByte":     impl.CheckByte,
+	"Syndrome":      impl.Syndrome,
+	"DecodeWord":    impl.DecodeWord,
+	"FlipCodeBit":   impl.FlipCodeBit,
+	"DecodeErased":  impl.DecodeErased,
+	"EncodeEcc":     impl.EncodeEcc,
+	"DecodeEcc":     impl.DecodeEcc,
+	"DiffBits":      impl.DiffBits,
+	"XorBytes":      impl.XorBytes,
+	"ParityOf":      impl.ParityOf,
+	"ValidStripe":   impl.ValidStripe,
+	"Rebuild":       impl.Rebuild,
+	"UpdateParity":  impl.UpdateParity,
+	"ParityDie":     impl.ParityDie,
+	"DataDie":       impl.DataDie,
+	"UnitOn":        impl.UnitOn,
+	"SealPage":      impl.SealPage,
+	"OpenPage":      impl.OpenPage,
+	"ErasedPage":    impl.ErasedPage,
+	"IsErased":      impl.IsErased,
+	"TornPage":      impl.TornPage,
+	"DestroyedPage": impl.DestroyedPage,
+	"FlipPageBit":   impl.FlipPageBit,
+	"ValidGeometry": impl.ValidGeometry,
+	"ValidFlash":    impl.ValidFlash,
+	"SameFlash":     impl.SameFlash,
+	"NewFlash":      impl.NewFlash,
+	"ProgramPage":   impl.ProgramPage,
+	"ReadRaw":       impl.ReadRaw,
+	"EraseBlock":    impl.EraseBlock,
+	"PowerOn":       impl.PowerOn,
+	"ArmFuse":       impl.ArmFuse,
+
+	"ValidBadTable":   impl.ValidBadTable,
+	"SameBadTable":    impl.SameBadTable,
+	"NewBadTable":     impl.NewBadTable,
+	"PhysicalBlock":   impl.PhysicalBlock,
+	"LogicalBlock":    impl.LogicalBlock,
+	"RetireBlock":     impl.RetireBlock,
+	"AvailableSpares": impl.AvailableSpares,
+	"MarkBadBlocks":   impl.MarkBadBlocks,
+	"ScanBadBlocks":   impl.ScanBadBlocks,
+	"EncodeBadTable":  impl.EncodeBadTable,
+	"DecodeBadTable":  impl.DecodeBadTable,
+	"ValidFault":      impl.ValidFault,
+	"ApplyFault":      impl.ApplyFault,
+	"ApplyFaults":     impl.ApplyFaults,
+	"DifferingBits":   impl.DifferingBits,
+	"WithinEccBudget": impl.WithinEccBudget,
+	"FaultedBlocks":   impl.FaultedBlocks,
+	"FormatFaults":    impl.FormatFaults,
+	"ParseFaults":     impl.ParseFaults,
+	"RandomFaults":    impl.RandomFaults,
+}
+
 // TestP1Total calls every function of the chapters that have landed with all edge values, twice.
 func TestP1Total(t *testing.T) {
-	functions := map[string]any{
-		"CodeName":      impl.CodeName,
-		"EncodeUvarint": impl.EncodeUvarint,
-		"DecodeUvarint": impl.DecodeUvarint,
-		"EncodeFixed":   impl.EncodeFixed,
-		"DecodeFixed":   impl.DecodeFixed,
-		"EncodeString":  impl.EncodeString,
-		"DecodeString":  impl.DecodeString,
-		"Checksum":      impl.Checksum,
-		"ValidState":    impl.ValidState,
-		"StepLfsr":      impl.StepLfsr,
-		"BackLfsr":      impl.BackLfsr,
-		"JumpLfsr":      impl.JumpLfsr,
-		"Keystream":     impl.Keystream,
-		"SeedFor":       impl.SeedFor,
-		"Scramble":      impl.Scramble,
-		"CountOnes":     impl.CountOnes,
-		"CheckByte":     impl.CheckByte,
-		"Syndrome":      impl.Syndrome,
-		"DecodeWord":    impl.DecodeWord,
-		"FlipCodeBit":   impl.FlipCodeBit,
-		"DecodeErased":  impl.DecodeErased,
-		"EncodeEcc":     impl.EncodeEcc,
-		"DecodeEcc":     impl.DecodeEcc,
-		"DiffBits":      impl.DiffBits,
-		"XorBytes":      impl.XorBytes,
-		"ParityOf":      impl.ParityOf,
-		"ValidStripe":   impl.ValidStripe,
-		"Rebuild":       impl.Rebuild,
-		"UpdateParity":  impl.UpdateParity,
-		"ParityDie":     impl.ParityDie,
-		"DataDie":       impl.DataDie,
-		"UnitOn":        impl.UnitOn,
-		"SealPage":      impl.SealPage,
-		"OpenPage":      impl.OpenPage,
-		"ErasedPage":    impl.ErasedPage,
-		"IsErased":      impl.IsErased,
-		"TornPage":      impl.TornPage,
-		"DestroyedPage": impl.DestroyedPage,
-		"FlipPageBit":   impl.FlipPageBit,
-		"ValidGeometry": impl.ValidGeometry,
-		"ValidFlash":    impl.ValidFlash,
-		"SameFlash":     impl.SameFlash,
-		"NewFlash":      impl.NewFlash,
-		"ProgramPage":   impl.ProgramPage,
-		"ReadRaw":       impl.ReadRaw,
-		"EraseBlock":    impl.EraseBlock,
-		"PowerOn":       impl.PowerOn,
-		"ArmFuse":       impl.ArmFuse,
-	}
-	for name, function := range functions {
+	for name, function := range landedFunctions {
 		f := reflect.ValueOf(function)
 		for _, args := range argumentLists(t, f.Type()) {
 			callPurely(t, name, f, args)
@@ -337,6 +404,8 @@ func TestP1Order(t *testing.T) {
 	check := impl.CheckByte("codeword")
 	parity, _ := impl.ParityOf([]string{"ab", "cd"})
 	f, _ := impl.NewFlash(impl.Geometry{Dies: 2, Blocks: 4, Pages: 8})
+	table := impl.EncodeBadTable(exampleTable())
+	faults, _ := impl.RandomFaults(smallGeometry, 7, 3)
 	for page := range int64(50) {
 		impl.Scramble(page, "other calls")
 		impl.JumpLfsr(page+1, page)
@@ -345,6 +414,13 @@ func TestP1Order(t *testing.T) {
 		impl.Rebuild([]string{"xy", "z"}, "vw", 1)
 		impl.ProgramPage(f, page%8, 0, impl.DestroyedPage())
 		impl.EraseBlock(f, page%8)
+		impl.RetireBlock(exampleTable(), page%8)
+		impl.ApplyFault(f, impl.Fault{Kind: impl.FaultBlock, Block: page % 8})
+		impl.RandomFaults(smallGeometry, page, 40)
+	}
+	again, _ := impl.RandomFaults(smallGeometry, 7, 3)
+	if table != impl.EncodeBadTable(exampleTable()) || !slices.Equal(faults, again) {
+		t.Error("a result depends on the calls before it")
 	}
 	after, _ := impl.Keystream(4711, 32)
 	if before != after || sum != impl.Checksum("abc") {
