@@ -1,5 +1,7 @@
 package impl
 
+import "strings"
+
 // Constants of chapter 1.
 const (
 	OK          = 0
@@ -20,6 +22,9 @@ const codeNames = "ok invalid range not-found full state corrupt bad power stale
 
 // maxGroups is the number of groups of seven bits in a non-negative int64.
 const maxGroups = 9
+
+// checksumSize is the number of bytes of a checksum in the formats of the other layers.
+const checksumSize = 4
 
 // crcNibbles holds the CRC remainders of the integers of four bits. It serves each half of a byte
 // in turn, because a table for whole bytes is too large for a package-level table.
@@ -102,6 +107,37 @@ func checkGroups(n int64, groups [maxGroups]byte) (int64, int64, bool) {
 	return n, int64(size), true
 }
 
+// encodeUvarints returns the encodings of integers one after the other.
+func encodeUvarints(numbers []int64) string {
+	var out strings.Builder
+	for _, n := range numbers {
+		out.WriteString(EncodeUvarint(n))
+	}
+	return out.String()
+}
+
+// uvarintReader reads encodings of integers one after the other.
+type uvarintReader struct {
+	rest string
+}
+
+// next returns the next integer. It returns 0 and does not move on if there is no encoding: its
+// users compare what they have read with the encoder, which makes the failure known.
+func (r *uvarintReader) next() int64 {
+	n, used, _ := DecodeUvarint(r.rest)
+	r.rest = r.rest[used:]
+	return n
+}
+
+// list returns the next integers.
+func (r *uvarintReader) list(size int64) []int64 {
+	numbers := make([]int64, size)
+	for i := range numbers {
+		numbers[i] = r.next()
+	}
+	return numbers
+}
+
 // EncodeFixed returns the least significant size bytes of the two's complement of n in
 // little-endian order, or the empty string if size is not in 0..8.
 func EncodeFixed(n int64, size int64) string {
@@ -156,4 +192,9 @@ func Checksum(s string) int64 {
 		sum = sum>>4 ^ crcNibbles[sum&15]
 	}
 	return int64(^sum)
+}
+
+// withChecksum returns s followed by its checksum.
+func withChecksum(s string) string {
+	return s + EncodeFixed(Checksum(s), checksumSize)
 }

@@ -31,6 +31,13 @@ func edgeStrings() []string {
 		list = append(list, strings.Repeat("\xff", size), strings.Repeat("\x80", size))
 	}
 	table, _ := formOf(numbersOf(exampleTable()))
+	for _, m := range []impl.PageMeta{someMetas[0], someMetas[8], damagedMetas[0]} {
+		list = append(list, rawMeta(m), rawMeta(m)+"\x00")
+	}
+	for _, c := range edgeCheckpoints() {
+		form, _ := formOf(numbersOfCheckpoint(c))
+		list = append(list, form)
+	}
 	return append(list, sealedByDefinition(strings.Repeat("codeword", 8), "spare bytes 0123", 7),
 		table, withSum(table), "bit 1 2 3\ncut 7 30\n", "bit 01 2 3\n", "block 3", "block 9223372036854775808\n", strings.Repeat("block 3\n", 41))
 }
@@ -120,6 +127,38 @@ func edgeScripts() [][]impl.Fault {
 	return list
 }
 
+// edgeMaps returns some of the valid and invalid maps, with unused capacity.
+func edgeMaps() []impl.PageMap {
+	var list []impl.PageMap
+	for i, s := range allMaps() {
+		if i%3 == 0 || len(s.m.Map) < 5 && i%2 == 0 {
+			s.m.Map = withSpare(s.m.Map, 12345)
+			s.m.Trimmed = withSpare(s.m.Trimmed, true)
+			list = append(list, s.m)
+		}
+	}
+	return list
+}
+
+// edgeCheckpoints returns checkpoints with valid and invalid maps.
+func edgeCheckpoints() []impl.Checkpoint {
+	var list []impl.Checkpoint
+	for i, m := range edgeMaps() {
+		seqs := []int64{0, 1, 5, 1000000, 3, 1000001, 6, -1}
+		list = append(list, impl.Checkpoint{Seq: seqs[i%len(seqs)], Map: m})
+	}
+	return list
+}
+
+// edgeFounds returns valid and invalid lists of pages, with unused capacity.
+func edgeFounds() [][]impl.Found {
+	var list [][]impl.Found
+	for _, s := range allLists() {
+		list = append(list, withSpare(s.list, impl.Found{Phys: 12345}))
+	}
+	return list
+}
+
 // valuesOf returns the elements of a list.
 func valuesOf[T any](list []T) []reflect.Value {
 	var values []reflect.Value
@@ -159,6 +198,16 @@ func edgeValues(t *testing.T, kind reflect.Type) []reflect.Value {
 		return valuesOf(someFaults)
 	case reflect.TypeFor[[]impl.Fault]():
 		return valuesOf(edgeScripts())
+	case reflect.TypeFor[bool]():
+		return valuesOf([]bool{false, true})
+	case reflect.TypeFor[impl.PageMap]():
+		return valuesOf(edgeMaps())
+	case reflect.TypeFor[impl.PageMeta]():
+		return valuesOf(slices.Concat(someMetas, damagedMetas))
+	case reflect.TypeFor[[]impl.Found]():
+		return valuesOf(edgeFounds())
+	case reflect.TypeFor[impl.Checkpoint]():
+		return valuesOf(edgeCheckpoints())
 	}
 	t.Fatalf("no edge values for parameters of type %v", kind)
 	return nil
@@ -385,15 +434,40 @@ var landedFunctions = map[string]any{
 	"FormatFaults":    impl.FormatFaults,
 	"ParseFaults":     impl.ParseFaults,
 	"RandomFaults":    impl.RandomFaults,
+
+	"ValidMap":         impl.ValidMap,
+	"SameMap":          impl.SameMap,
+	"NewMap":           impl.NewMap,
+	"SetPage":          impl.SetPage,
+	"PhysOf":           impl.PhysOf,
+	"LogicalAt":        impl.LogicalAt,
+	"LivePages":        impl.LivePages,
+	"LiveIn":           impl.LiveIn,
+	"MappedPages":      impl.MappedPages,
+	"ValidMeta":        impl.ValidMeta,
+	"EncodeMeta":       impl.EncodeMeta,
+	"DecodeMeta":       impl.DecodeMeta,
+	"ScanPages":        impl.ScanPages,
+	"ValidFound":       impl.ValidFound,
+	"GroupComplete":    impl.GroupComplete,
+	"NewestOf":         impl.NewestOf,
+	"RecoverMap":       impl.RecoverMap,
+	"NextSeq":          impl.NextSeq,
+	"EncodeCheckpoint": impl.EncodeCheckpoint,
+	"DecodeCheckpoint": impl.DecodeCheckpoint,
+	"RecoverFrom":      impl.RecoverFrom,
 }
 
 // TestP1Total calls every function of the chapters that have landed with all edge values, twice.
 func TestP1Total(t *testing.T) {
 	for name, function := range landedFunctions {
-		f := reflect.ValueOf(function)
-		for _, args := range argumentLists(t, f.Type()) {
-			callPurely(t, name, f, args)
-		}
+		t.Run(name, func(t *testing.T) {
+			t.Parallel()
+			f := reflect.ValueOf(function)
+			for _, args := range argumentLists(t, f.Type()) {
+				callPurely(t, name, f, args)
+			}
+		})
 	}
 }
 
@@ -406,6 +480,8 @@ func TestP1Order(t *testing.T) {
 	f, _ := impl.NewFlash(impl.Geometry{Dies: 2, Blocks: 4, Pages: 8})
 	table := impl.EncodeBadTable(exampleTable())
 	faults, _ := impl.RandomFaults(smallGeometry, 7, 3)
+	list := pagesOf(3, dataMeta(1, 4), atomicMeta(2, 5, 5, 2), atomicMeta(1, 6, 5, 2), trimMeta(0, 7))
+	recovered, _ := impl.RecoverMap(list, 4, 3, 8)
 	for page := range int64(50) {
 		impl.Scramble(page, "other calls")
 		impl.JumpLfsr(page+1, page)
@@ -417,6 +493,13 @@ func TestP1Order(t *testing.T) {
 		impl.RetireBlock(exampleTable(), page%8)
 		impl.ApplyFault(f, impl.Fault{Kind: impl.FaultBlock, Block: page % 8})
 		impl.RandomFaults(smallGeometry, page, 40)
+		impl.SetPage(recovered, page%4, page%24, page%2 == 0)
+		impl.RecoverMap(list[page%4:], 4, 3, 8)
+		impl.RecoverFrom(impl.Checkpoint{Seq: page % 8, Map: recovered}, list[page%4:])
+	}
+	recoveredAgain, _ := impl.RecoverMap(list, 4, 3, 8)
+	if !sameMaps(recovered, recoveredAgain) {
+		t.Error("a result depends on the calls before it")
 	}
 	again, _ := impl.RandomFaults(smallGeometry, 7, 3)
 	if table != impl.EncodeBadTable(exampleTable()) || !slices.Equal(faults, again) {
