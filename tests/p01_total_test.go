@@ -14,8 +14,8 @@ import (
 
 // edgeInts are integers at and around the limits of the chapters, and the extreme ones.
 var edgeInts = []int64{
-	math.MinInt64, math.MinInt64 + 1, -65536, -256, -2, -1, 0, 1, 2, 3, 6, 7, 8, 9, 10, 11, 12, 63, 64,
-	70, 71, 72, 73, 90, 91, 92, 127, 128, 255, 256, 257, 300, 16383, 16384, 65533, 65534, 65535, 65536, 65537,
+	math.MinInt64, math.MinInt64 + 1, -65536, -256, -2, -1, 0, 1, 2, 3, 6, 7, 8, 9, 10, 11, 12, 16, 47, 48, 49, 63, 64,
+	70, 71, 72, 73, 90, 91, 92, 127, 128, 255, 256, 257, 300, 640, 641, 16383, 16384, 65533, 65534, 65535, 65536, 65537,
 	727, 728, 1000000, 1000001, 1 << 31, 1 << 32, math.MaxInt64 - 1, math.MaxInt64,
 }
 
@@ -159,6 +159,39 @@ func edgeFounds() [][]impl.Found {
 	return list
 }
 
+// edgeStats returns valid and invalid lists of statistics, with unused capacity.
+func edgeStats() [][]impl.BlockStat {
+	var list [][]impl.BlockStat
+	for _, s := range allStats() {
+		list = append(list, withSpare(s.list, impl.BlockStat{Live: 12345}))
+	}
+	return list
+}
+
+// edgeFlags returns lists of booleans, some with one element for each block of a map, with unused
+// capacity.
+func edgeFlags() [][]bool {
+	r := rand.New(rand.NewSource(43))
+	list := [][]bool{nil, {}}
+	for _, size := range []int64{1, 2, 3, 8, 36, 40, 639, 640, 641} {
+		list = append(list, make([]bool, size), randomFlags(r, size))
+	}
+	for i := range list {
+		list[i] = withSpare(list[i], true)
+	}
+	return list
+}
+
+// edgeHeats returns valid and invalid counters, with unused capacity.
+func edgeHeats() []impl.Heat {
+	var list []impl.Heat
+	for _, s := range allHeats() {
+		s.h.Counts = withSpare(s.h.Counts, 12345)
+		list = append(list, s.h)
+	}
+	return list
+}
+
 // valuesOf returns the elements of a list.
 func valuesOf[T any](list []T) []reflect.Value {
 	var values []reflect.Value
@@ -208,6 +241,12 @@ func edgeValues(t *testing.T, kind reflect.Type) []reflect.Value {
 		return valuesOf(edgeFounds())
 	case reflect.TypeFor[impl.Checkpoint]():
 		return valuesOf(edgeCheckpoints())
+	case reflect.TypeFor[[]impl.BlockStat]():
+		return valuesOf(edgeStats())
+	case reflect.TypeFor[[]bool]():
+		return valuesOf(edgeFlags())
+	case reflect.TypeFor[impl.Heat]():
+		return valuesOf(edgeHeats())
 	}
 	t.Fatalf("no edge values for parameters of type %v", kind)
 	return nil
@@ -456,6 +495,22 @@ var landedFunctions = map[string]any{
 	"EncodeCheckpoint": impl.EncodeCheckpoint,
 	"DecodeCheckpoint": impl.DecodeCheckpoint,
 	"RecoverFrom":      impl.RecoverFrom,
+
+	"ValidStats":        impl.ValidStats,
+	"GreedyVictim":      impl.GreedyVictim,
+	"CostBenefitVictim": impl.CostBenefitVictim,
+	"PickVictim":        impl.PickVictim,
+	"GainOf":            impl.GainOf,
+	"AverageLive":       impl.AverageLive,
+	"StatsOf":           impl.StatsOf,
+	"ValidHeat":         impl.ValidHeat,
+	"SameHeat":          impl.SameHeat,
+	"NewHeat":           impl.NewHeat,
+	"NoteWrite":         impl.NoteWrite,
+	"DecayHeat":         impl.DecayHeat,
+	"IsHot":             impl.IsHot,
+	"StreamOf":          impl.StreamOf,
+	"HotPages":          impl.HotPages,
 }
 
 // TestP1Total calls every function of the chapters that have landed with all edge values, twice.
@@ -482,6 +537,8 @@ func TestP1Order(t *testing.T) {
 	faults, _ := impl.RandomFaults(smallGeometry, 7, 3)
 	list := pagesOf(3, dataMeta(1, 4), atomicMeta(2, 5, 5, 2), atomicMeta(1, 6, 5, 2), trimMeta(0, 7))
 	recovered, _ := impl.RecoverMap(list, 4, 3, 8)
+	heat, _ := impl.NoteWrite(heatOf(15, 5, 6, 7, 1), 0)
+	victim := impl.CostBenefitVictim(liveStats(9, 8, 3, 3), 8)
 	for page := range int64(50) {
 		impl.Scramble(page, "other calls")
 		impl.JumpLfsr(page+1, page)
@@ -496,6 +553,13 @@ func TestP1Order(t *testing.T) {
 		impl.SetPage(recovered, page%4, page%24, page%2 == 0)
 		impl.RecoverMap(list[page%4:], 4, 3, 8)
 		impl.RecoverFrom(impl.Checkpoint{Seq: page % 8, Map: recovered}, list[page%4:])
+		impl.NoteWrite(heat, page%4)
+		impl.DecayHeat(heat)
+		impl.PickVictim(page%3, liveStats(page, page%8, 3, 1), 8)
+	}
+	noted, _ := impl.NoteWrite(heatOf(15, 5, 6, 7, 1), 0)
+	if !sameHeats(heat, noted) || victim != impl.CostBenefitVictim(liveStats(9, 8, 3, 3), 8) {
+		t.Error("a result depends on the calls before it")
 	}
 	recoveredAgain, _ := impl.RecoverMap(list, 4, 3, 8)
 	if !sameMaps(recovered, recoveredAgain) {
