@@ -192,6 +192,45 @@ func edgeHeats() []impl.Heat {
 	return list
 }
 
+// edgeLayers returns some of the valid and invalid layers, with unused capacity.
+func edgeLayers() []impl.FTL {
+	var list []impl.FTL
+	for i, s := range allLayers() {
+		if i%4 == 0 {
+			s.f = deepCopy(s.f)
+			s.f.Flash.Blocks = withSpare(s.f.Flash.Blocks, impl.Block{Erases: 12345})
+			for block := range s.f.Flash.Blocks {
+				s.f.Flash.Blocks[block].Pages = withSpare(s.f.Flash.Blocks[block].Pages, "spare")
+			}
+			s.f.Map.Map, s.f.Map.Trimmed = withSpare(s.f.Map.Map, 12345), withSpare(s.f.Map.Trimmed, true)
+			s.f.Heat.Counts = withSpare(s.f.Heat.Counts, 12345)
+			s.f.Open, s.f.Last = withSpare(s.f.Open, 12345), withSpare(s.f.Last, 12345)
+			list = append(list, s.f)
+		}
+	}
+	return list
+}
+
+// edgeActLists returns lists of operations that can be played, and some that are too long or have an invalid
+// one, with unused capacity.
+func edgeActLists() [][]impl.FtlAct {
+	r := rand.New(rand.NewSource(44))
+	list := [][]impl.FtlAct{nil, {}, edgeActs()}
+	for _, size := range []int{1, 2, 20, 59, 60, 61, 200} {
+		acts := randomActs(r, 48, size, 1)
+		broken := slices.Clone(acts)
+		broken[size/2] = impl.FtlAct{Kind: impl.FaTrim}
+		list = append(list, acts, broken, randomActs(r, 4, size, 1))
+	}
+	for i := range list {
+		for j := range list[i] {
+			list[i][j].Lpns, list[i][j].Data = withSpare(list[i][j].Lpns, 12345), withSpare(list[i][j].Data, "spare")
+		}
+		list[i] = withSpare(list[i], syncAct)
+	}
+	return list
+}
+
 // valuesOf returns the elements of a list.
 func valuesOf[T any](list []T) []reflect.Value {
 	var values []reflect.Value
@@ -247,6 +286,12 @@ func edgeValues(t *testing.T, kind reflect.Type) []reflect.Value {
 		return valuesOf(edgeFlags())
 	case reflect.TypeFor[impl.Heat]():
 		return valuesOf(edgeHeats())
+	case reflect.TypeFor[impl.FTL]():
+		return valuesOf(edgeLayers())
+	case reflect.TypeFor[impl.FtlAct]():
+		return valuesOf(edgeActs())
+	case reflect.TypeFor[[]impl.FtlAct]():
+		return valuesOf(edgeActLists())
 	}
 	t.Fatalf("no edge values for parameters of type %v", kind)
 	return nil
@@ -511,6 +556,27 @@ var landedFunctions = map[string]any{
 	"IsHot":             impl.IsHot,
 	"StreamOf":          impl.StreamOf,
 	"HotPages":          impl.HotPages,
+
+	"PickFree":       impl.PickFree,
+	"WearGap":        impl.WearGap,
+	"NeedsLevelling": impl.NeedsLevelling,
+	"PickStatic":     impl.PickStatic,
+
+	"ValidFTL":    impl.ValidFTL,
+	"SameFTL":     impl.SameFTL,
+	"CapacityFTL": impl.CapacityFTL,
+	"NewFTL":      impl.NewFTL,
+	"MountFTL":    impl.MountFTL,
+	"FreeBlocks":  impl.FreeBlocks,
+	"WritePage":   impl.WritePage,
+	"WriteAtomic": impl.WriteAtomic,
+	"TrimPage":    impl.TrimPage,
+	"ReadPage":    impl.ReadPage,
+	"SyncFTL":     impl.SyncFTL,
+	"CleanFTL":    impl.CleanFTL,
+	"LevelFTL":    impl.LevelFTL,
+	"ValidFtlAct": impl.ValidFtlAct,
+	"PlayFTL":     impl.PlayFTL,
 }
 
 // TestP1Total calls every function of the chapters that have landed with all edge values, twice.
@@ -539,6 +605,7 @@ func TestP1Order(t *testing.T) {
 	recovered, _ := impl.RecoverMap(list, 4, 3, 8)
 	heat, _ := impl.NoteWrite(heatOf(15, 5, 6, 7, 1), 0)
 	victim := impl.CostBenefitVictim(liveStats(9, 8, 3, 3), 8)
+	layer := busyLayer(45, smallGeometry, 2, impl.ClGreedy)
 	for page := range int64(50) {
 		impl.Scramble(page, "other calls")
 		impl.JumpLfsr(page+1, page)
@@ -556,6 +623,10 @@ func TestP1Order(t *testing.T) {
 		impl.NoteWrite(heat, page%4)
 		impl.DecayHeat(heat)
 		impl.PickVictim(page%3, liveStats(page, page%8, 3, 1), 8)
+		impl.PlayFTL(layer, randomActs(rand.New(rand.NewSource(page)), 8, 20, 1))
+	}
+	if !sameLayers(layer, busyLayer(45, smallGeometry, 2, impl.ClGreedy)) {
+		t.Error("a result depends on the calls before it")
 	}
 	noted, _ := impl.NoteWrite(heatOf(15, 5, 6, 7, 1), 0)
 	if !sameHeats(heat, noted) || victim != impl.CostBenefitVictim(liveStats(9, 8, 3, 3), 8) {
