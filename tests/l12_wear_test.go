@@ -116,8 +116,8 @@ func TestP23WearExamples(t *testing.T) {
 	expect(t, "PickStatic of counts without a bound", impl.PickStatic([]int64{math.MaxInt64, math.MinInt64, 5}, nil, nil), 1)
 }
 
-// TestP23WearSmall compares all lists of up to three blocks.
-func TestP23WearSmall(t *testing.T) {
+// smallCounts returns all lists of up to three erase counts at and beside the bounds.
+func smallCounts() [][]int64 {
 	counts := []int64{0, 1, 2, 1000, 1001, -1}
 	lists := [][]int64{nil}
 	for _, a := range counts {
@@ -129,10 +129,17 @@ func TestP23WearSmall(t *testing.T) {
 			}
 		}
 	}
-	flags := [][]bool{nil, {}, {true}, {false, true}, {true, false, true}, {true, true, true}, {false, false, false, true}, {false, false, true}}
+	return lists
+}
+
+// smallFlags are bad marks of up to three blocks, some of them with fewer or with more entries.
+var smallFlags = [][]bool{nil, {}, {true}, {false, true}, {true, false, true}, {true, true, true}, {false, false, false, true}, {false, false, true}}
+
+// TestP23WearSmall compares all lists of up to three blocks.
+func TestP23WearSmall(t *testing.T) {
 	blocks := [][]int64{nil, {0}, {1}, {2}, {1, 0}, {2, 1}, {0, 2}, {2, 0, 1}, {1, 1}, {3}, {-1, 0}, {0, 1, 2, 3}}
-	for _, erases := range lists {
-		for _, bad := range flags {
+	for _, erases := range smallCounts() {
+		for _, bad := range smallFlags {
 			for _, list := range blocks {
 				checkWear(t, erases, bad, list)
 			}

@@ -135,11 +135,23 @@ func wearOf(f impl.FTL) ([]int64, []bool) {
 	return erases, bad
 }
 
-// layerStats returns the statistics of the blocks of a valid layer, by the definition of chapter 14.
+// livePages returns the pages of a block that occur in a map, in ascending order. The map may refer to a page
+// several times.
+func livePages(m impl.PageMap, block int64) []int64 {
+	var list []int64
+	for phys := block * m.Pages; phys < (block+1)*m.Pages; phys++ {
+		if slices.Contains(m.Map, phys) {
+			list = append(list, phys)
+		}
+	}
+	return list
+}
+
+// layerStats returns the statistics of the blocks of a layer, by the definition of chapter 14.
 func layerStats(f impl.FTL) []impl.BlockStat {
 	var list []impl.BlockStat
 	for block := range f.Map.Blocks {
-		live := int64(len(wantLiveIn(f.Map, block)))
+		live := int64(len(livePages(f.Map, block)))
 		age := min(max(f.Seq-f.Last[block], 0), 1000000)
 		list = append(list, impl.BlockStat{Live: live, Age: age, Usable: blockIsCandidate(f, block)})
 	}
@@ -233,14 +245,14 @@ func (m *layerModel) program(stream int64, meta impl.PageMeta, data string) int6
 	return phys
 }
 
-// refer makes logical pages refer to new records. The document does not say what happens if the map of
-// a layer named one of these pages before it was programmed; no layer that comes of operations does.
+// refer makes logical pages refer to new records. If the map named one of their pages before it was
+// programmed, two logical pages refer to it then, and the operation goes on with this map. No layer that
+// comes of operations has such a map.
 func (m *layerModel) refer(metas []impl.PageMeta, phys []int64) {
 	for i, meta := range metas {
 		m.f.Map.Map[meta.Logical] = phys[i]
 		m.f.Map.Trimmed[meta.Logical] = meta.Kind == impl.MkTrim
 	}
-	m.require(mapIsValid(m.f.Map), impl.ErrState)
 }
 
 // synchronize pads the open blocks.
@@ -266,7 +278,15 @@ func (m *layerModel) move(lpn int64) {
 
 // clean cleans a block.
 func (m *layerModel) clean(block int64) {
-	for _, lpn := range wantLiveIn(m.f.Map, block) {
+	var list []int64
+	for _, phys := range livePages(m.f.Map, block) {
+		for lpn, live := range m.f.Map.Map {
+			if live == phys {
+				list = append(list, int64(lpn))
+			}
+		}
+	}
+	for _, lpn := range list {
 		m.move(lpn)
 	}
 	pages := m.f.Flash.Geo.Pages
@@ -450,8 +470,9 @@ func expectLayer(t *testing.T, what string, got layerOutcome, want layerOutcome)
 		got.f.Flash.Blocks, want.f.Flash.Blocks = nil, nil
 		t.Fatalf("%s: got code %d, want %d, or the layers differ (without their blocks: got %+v, want %+v)", what, got.code, want.code, got.f, want.f)
 	}
-	// The number of operations may wrap, and then no array is valid.
-	if got.code == impl.OK && got.f.Flash.Ops >= 0 && !layerIsValid(got.f) {
+	// The number of operations may wrap, and then no array is valid. Two logical pages may refer to the same
+	// page if the map named it before it was programmed, and then the map is not valid.
+	if got.code == impl.OK && got.f.Flash.Ops >= 0 && mapIsValid(got.f.Map) && !layerIsValid(got.f) {
 		t.Fatalf("%s: the layer is invalid", what)
 	}
 }

@@ -24,7 +24,7 @@ var edgeInts = []int64{
 func edgeStrings() []string {
 	list := []string{
 		"", "\x00", "\x80", "\xff", "\x80\x00", "\xac\x02z", "\x03abcd", "\x03ab", "é世\xff\xfe",
-		"123456789", "codeword", "\xff\xff\xff\xff\xff\xff\xff\xff\x7f",
+		"123456789", "codeword", "0", "01", "10", strings.Repeat("01", 32), "\xff\xff\xff\xff\xff\xff\xff\xff\x7f",
 		"\xff\xff\xff\xff\xff\xff\xff\xff\x7fabc", "\x80\x80\x80\x80\x80\x80\x80\x80\x80\x01",
 	}
 	for _, size := range []int{7, 8, 9, 10, 15, 16, 17, 63, 64, 65, 90, 91, 92, 127, 128, 255, 256, 257, 264, 70000} {
@@ -231,6 +231,36 @@ func edgeActLists() [][]impl.FtlAct {
 	return list
 }
 
+// edgeWears returns valid and invalid states of blocks, with unused capacity.
+func edgeWears() []impl.Wear {
+	var list []impl.Wear
+	for _, s := range allWears() {
+		s.w.Erases, s.w.Bad, s.w.Content = withSpare(s.w.Erases, 12345), withSpare(s.w.Bad, true), withSpare(s.w.Content, 12345)
+		list = append(list, s.w)
+	}
+	return list
+}
+
+// edgeCells returns some of the valid and invalid lists of cells, with unused capacity.
+func edgeCells() []impl.Cells {
+	var list []impl.Cells
+	for i, s := range allCells() {
+		if i%5 == 0 || !s.valid {
+			list = append(list, impl.Cells{Charge: withSpare(s.c.Charge, 12345)})
+		}
+	}
+	return list
+}
+
+// edgeWipes returns valid and invalid lists of blocks to be erased, with unused capacity.
+func edgeWipes() []impl.Wipe {
+	var list []impl.Wipe
+	for _, w := range someWipes() {
+		list = append(list, impl.Wipe{Blocks: withSpare(w.Blocks, 12345), Done: w.Done})
+	}
+	return list
+}
+
 // valuesOf returns the elements of a list.
 func valuesOf[T any](list []T) []reflect.Value {
 	var values []reflect.Value
@@ -292,6 +322,12 @@ func edgeValues(t *testing.T, kind reflect.Type) []reflect.Value {
 		return valuesOf(edgeActs())
 	case reflect.TypeFor[[]impl.FtlAct]():
 		return valuesOf(edgeActLists())
+	case reflect.TypeFor[impl.Wear]():
+		return valuesOf(edgeWears())
+	case reflect.TypeFor[impl.Cells]():
+		return valuesOf(edgeCells())
+	case reflect.TypeFor[impl.Wipe]():
+		return valuesOf(edgeWipes())
 	}
 	t.Fatalf("no edge values for parameters of type %v", kind)
 	return nil
@@ -559,8 +595,14 @@ var landedFunctions = map[string]any{
 
 	"PickFree":       impl.PickFree,
 	"WearGap":        impl.WearGap,
+	"WearExcess":     impl.WearExcess,
 	"NeedsLevelling": impl.NeedsLevelling,
 	"PickStatic":     impl.PickStatic,
+	"ValidWear":      impl.ValidWear,
+	"PlaceData":      impl.PlaceData,
+	"RewriteHot":     impl.RewriteHot,
+	"LevelMove":      impl.LevelMove,
+	"LevelWear":      impl.LevelWear,
 
 	"ValidFTL":    impl.ValidFTL,
 	"SameFTL":     impl.SameFTL,
@@ -577,6 +619,18 @@ var landedFunctions = map[string]any{
 	"LevelFTL":    impl.LevelFTL,
 	"ValidFtlAct": impl.ValidFtlAct,
 	"PlayFTL":     impl.PlayFTL,
+
+	"ValidCells":   impl.ValidCells,
+	"ProgramCells": impl.ProgramCells,
+	"EraseCells":   impl.EraseCells,
+	"SenseCells":   impl.SenseCells,
+	"LeaksPattern": impl.LeaksPattern,
+	"WipeCells":    impl.WipeCells,
+	"ErasePasses":  impl.ErasePasses,
+	"SecureErase":  impl.SecureErase,
+	"IsWiped":      impl.IsWiped,
+	"ValidWipe":    impl.ValidWipe,
+	"RunWipe":      impl.RunWipe,
 }
 
 // TestP1Total calls every function of the chapters that have landed with all edge values, twice.
@@ -606,6 +660,7 @@ func TestP1Order(t *testing.T) {
 	heat, _ := impl.NoteWrite(heatOf(15, 5, 6, 7, 1), 0)
 	victim := impl.CostBenefitVictim(liveStats(9, 8, 3, 3), 8)
 	layer := busyLayer(45, smallGeometry, 2, impl.ClGreedy)
+	levelled, wiped := levelWear(goodWear(2, []int64{7, 1, 3}, []int64{0, 1, 0})), impl.WipeCells(cellsOf(255, 10))
 	for page := range int64(50) {
 		impl.Scramble(page, "other calls")
 		impl.JumpLfsr(page+1, page)
@@ -624,7 +679,13 @@ func TestP1Order(t *testing.T) {
 		impl.DecayHeat(heat)
 		impl.PickVictim(page%3, liveStats(page, page%8, 3, 1), 8)
 		impl.PlayFTL(layer, randomActs(rand.New(rand.NewSource(page)), 8, 20, 1))
+		impl.LevelWear(goodWear(1, []int64{page, 0, 3}, []int64{page % 3, 1, 0}))
+		impl.RewriteHot(levelled.w, page%3)
+		impl.EraseCells(wiped)
+		impl.RunWipe(f, impl.Wipe{Blocks: []int64{page % 8}})
 	}
+	expectWear(t, "LevelWear after other calls", levelWear(goodWear(2, []int64{7, 1, 3}, []int64{0, 1, 0})), levelled)
+	expectCells(t, "WipeCells after other calls", cellOutcome{c: impl.WipeCells(cellsOf(255, 10))}, cellOutcome{c: wiped})
 	if !sameLayers(layer, busyLayer(45, smallGeometry, 2, impl.ClGreedy)) {
 		t.Error("a result depends on the calls before it")
 	}
