@@ -34,6 +34,9 @@ func edgeStrings() []string {
 	for _, m := range []impl.PageMeta{someMetas[0], someMetas[8], damagedMetas[0]} {
 		list = append(list, rawMeta(m), rawMeta(m)+"\x00")
 	}
+	for _, h := range []impl.Header{{Kind: impl.HdData}, {Kind: impl.HdParity, Zone: 11, Row: 15, Unit: 3, Index: 65535, Size: 127}, {Kind: 1}} {
+		list = append(list, rawHeader(h, strings.Repeat("\xff", 64)))
+	}
 	for _, c := range edgeCheckpoints() {
 		form, _ := formOf(numbersOfCheckpoint(c))
 		list = append(list, form)
@@ -77,16 +80,21 @@ var edgeGeometries = []impl.Geometry{
 	{Dies: math.MinInt64, Blocks: math.MinInt64, Pages: math.MinInt64},
 }
 
+// spareFlash returns a copy of an array whose slices have unused capacity.
+func spareFlash(f impl.Flash) impl.Flash {
+	f = deepCopy(f)
+	f.Blocks = withSpare(f.Blocks, impl.Block{Erases: 12345})
+	for i := range f.Blocks {
+		f.Blocks[i].Pages = withSpare(f.Blocks[i].Pages, "spare")
+	}
+	return f
+}
+
 // edgeFlashes returns valid and invalid arrays whose slices have unused capacity.
 func edgeFlashes() []impl.Flash {
 	var list []impl.Flash
 	for _, s := range append(validFlashes(), invalidFlashes()...) {
-		f := deepCopy(s.f)
-		f.Blocks = withSpare(f.Blocks, impl.Block{Erases: 12345})
-		for i := range f.Blocks {
-			f.Blocks[i].Pages = withSpare(f.Blocks[i].Pages, "spare")
-		}
-		list = append(list, f)
+		list = append(list, spareFlash(s.f))
 	}
 	return list
 }
@@ -198,10 +206,7 @@ func edgeLayers() []impl.FTL {
 	for i, s := range allLayers() {
 		if i%4 == 0 {
 			s.f = deepCopy(s.f)
-			s.f.Flash.Blocks = withSpare(s.f.Flash.Blocks, impl.Block{Erases: 12345})
-			for block := range s.f.Flash.Blocks {
-				s.f.Flash.Blocks[block].Pages = withSpare(s.f.Flash.Blocks[block].Pages, "spare")
-			}
+			s.f.Flash = spareFlash(s.f.Flash)
 			s.f.Map.Map, s.f.Map.Trimmed = withSpare(s.f.Map.Map, 12345), withSpare(s.f.Map.Trimmed, true)
 			s.f.Heat.Counts = withSpare(s.f.Heat.Counts, 12345)
 			s.f.Open, s.f.Last = withSpare(s.f.Open, 12345), withSpare(s.f.Last, 12345)
@@ -257,6 +262,27 @@ func edgeWipes() []impl.Wipe {
 	var list []impl.Wipe
 	for _, w := range someWipes() {
 		list = append(list, impl.Wipe{Blocks: withSpare(w.Blocks, 12345), Done: w.Done})
+	}
+	return list
+}
+
+// spareSlices returns a copy of a device whose slices have unused capacity.
+func spareSlices(d impl.Device) impl.Device {
+	d = impl.Device{Flash: spareFlash(d.Flash), Zones: withSpare(d.Zones, impl.Zone{State: 12345})}
+	for z := range d.Zones {
+		zone := &d.Zones[z]
+		zone.Blocks, zone.Rows, zone.Buffer = withSpare(zone.Blocks, 12345), withSpare(zone.Rows, 12345), withSpare(zone.Buffer, "spare")
+	}
+	return d
+}
+
+// edgeDevices returns some of the valid and invalid devices, with unused capacity.
+func edgeDevices() []impl.Device {
+	var list []impl.Device
+	for i, s := range allDevices() {
+		if i%8 == 0 {
+			list = append(list, spareSlices(s.d))
+		}
 	}
 	return list
 }
@@ -328,6 +354,10 @@ func edgeValues(t *testing.T, kind reflect.Type) []reflect.Value {
 		return valuesOf(edgeCells())
 	case reflect.TypeFor[impl.Wipe]():
 		return valuesOf(edgeWipes())
+	case reflect.TypeFor[impl.Header]():
+		return valuesOf(someHeaders())
+	case reflect.TypeFor[impl.Device]():
+		return valuesOf(edgeDevices())
 	}
 	t.Fatalf("no edge values for parameters of type %v", kind)
 	return nil
@@ -631,6 +661,19 @@ var landedFunctions = map[string]any{
 	"IsWiped":      impl.IsWiped,
 	"ValidWipe":    impl.ValidWipe,
 	"RunWipe":      impl.RunWipe,
+
+	"EncodeHeader": impl.EncodeHeader,
+	"DecodeHeader": impl.DecodeHeader,
+	"ValidDevice":  impl.ValidDevice,
+	"SameDevice":   impl.SameDevice,
+	"NewDevice":    impl.NewDevice,
+	"CapacityOf":   impl.CapacityOf,
+	"AppendZone":   impl.AppendZone,
+	"ReadZone":     impl.ReadZone,
+	"SyncZone":     impl.SyncZone,
+	"FinishZone":   impl.FinishZone,
+	"ResetZone":    impl.ResetZone,
+	"MountDevice":  impl.MountDevice,
 }
 
 // TestP1Total calls every function of the chapters that have landed with all edge values, twice.
@@ -660,6 +703,7 @@ func TestP1Order(t *testing.T) {
 	heat, _ := impl.NoteWrite(heatOf(15, 5, 6, 7, 1), 0)
 	victim := impl.CostBenefitVictim(liveStats(9, 8, 3, 3), 8)
 	layer := busyLayer(45, smallGeometry, 2, impl.ClGreedy)
+	device, _ := impl.MountDevice(busyDevice(threeDies, 4).Flash, 4)
 	levelled, wiped := levelWear(goodWear(2, []int64{7, 1, 3}, []int64{0, 1, 0})), impl.WipeCells(cellsOf(255, 10))
 	for page := range int64(50) {
 		impl.Scramble(page, "other calls")
@@ -683,7 +727,12 @@ func TestP1Order(t *testing.T) {
 		impl.RewriteHot(levelled.w, page%3)
 		impl.EraseCells(wiped)
 		impl.RunWipe(f, impl.Wipe{Blocks: []int64{page % 8}})
+		impl.AppendZone(device, page%4, "other calls")
+		impl.ResetZone(device, page%4)
+		impl.MountDevice(f, 1+page%4)
 	}
+	deviceAgain, _ := impl.MountDevice(busyDevice(threeDies, 4).Flash, 4)
+	expect(t, "MountDevice after other calls", sameDevices(device, deviceAgain), true)
 	expectWear(t, "LevelWear after other calls", levelWear(goodWear(2, []int64{7, 1, 3}, []int64{0, 1, 0})), levelled)
 	expectCells(t, "WipeCells after other calls", cellOutcome{c: impl.WipeCells(cellsOf(255, 10))}, cellOutcome{c: wiped})
 	if !sameLayers(layer, busyLayer(45, smallGeometry, 2, impl.ClGreedy)) {
