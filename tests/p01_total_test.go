@@ -41,6 +41,10 @@ func edgeStrings() []string {
 		form, _ := formOf(numbersOfCheckpoint(c))
 		list = append(list, form)
 	}
+	list = append(list, "a", "b", "b\x00", "c", "put 5 6b 76", "put 05 6b 76", "delete 7 6b -", "range 2 61 6263", "range 2 62 61")
+	for _, r := range []impl.Record{someRecords[0], someRecords[3], someRecords[7], someRecords[12], damagedRecords[1], damagedRecords[3]} {
+		list = append(list, rawRecord(r), rawRecord(r)+"\x00")
+	}
 	return append(list, sealedByDefinition(strings.Repeat("codeword", 8), "spare bytes 0123", 7),
 		table, withSum(table), "bit 1 2 3\ncut 7 30\n", "bit 01 2 3\n", "block 3", "block 9223372036854775808\n", strings.Repeat("block 3\n", 41))
 }
@@ -287,6 +291,15 @@ func edgeDevices() []impl.Device {
 	return list
 }
 
+// edgeRecordLists returns runs, memtables, and lists that are neither, with unused capacity.
+func edgeRecordLists() [][]impl.Record {
+	list := [][]impl.Record{withSpare(slices.Concat(someRecords, damagedRecords), putAt(9, "spare", ""))}
+	for _, s := range memSamples() {
+		list = append(list, withSpare(s.list, putAt(9, "spare", "")))
+	}
+	return list
+}
+
 // valuesOf returns the elements of a list.
 func valuesOf[T any](list []T) []reflect.Value {
 	var values []reflect.Value
@@ -358,6 +371,10 @@ func edgeValues(t *testing.T, kind reflect.Type) []reflect.Value {
 		return valuesOf(someHeaders())
 	case reflect.TypeFor[impl.Device]():
 		return valuesOf(edgeDevices())
+	case reflect.TypeFor[impl.Record]():
+		return valuesOf(slices.Concat(someRecords, damagedRecords, fieldVariants()))
+	case reflect.TypeFor[[]impl.Record]():
+		return valuesOf(edgeRecordLists())
 	}
 	t.Fatalf("no edge values for parameters of type %v", kind)
 	return nil
@@ -674,6 +691,24 @@ var landedFunctions = map[string]any{
 	"FinishZone":   impl.FinishZone,
 	"ResetZone":    impl.ResetZone,
 	"MountDevice":  impl.MountDevice,
+
+	"ValidKey":    impl.ValidKey,
+	"ValidRecord": impl.ValidRecord,
+	"LessRecord":  impl.LessRecord,
+	"ValidRun":    impl.ValidRun,
+	"SortRecords": impl.SortRecords,
+	"PutRecord":   impl.PutRecord,
+	"GetRecord":   impl.GetRecord,
+	"Affects":     impl.Affects,
+	"RecordText":  impl.RecordText,
+	"ReadRecord":  impl.ReadRecord,
+	"ValidMem":    impl.ValidMem,
+	"InsertMem":   impl.InsertMem,
+	"LookMem":     impl.LookMem,
+	"ScanMem":     impl.ScanMem,
+	"SeqsOf":      impl.SeqsOf,
+	"TruncateMem": impl.TruncateMem,
+	"MemBytes":    impl.MemBytes,
 }
 
 // TestP1Total calls every function of the chapters that have landed with all edge values, twice.
@@ -704,6 +739,7 @@ func TestP1Order(t *testing.T) {
 	victim := impl.CostBenefitVictim(liveStats(9, 8, 3, 3), 8)
 	layer := busyLayer(45, smallGeometry, 2, impl.ClGreedy)
 	device, _ := impl.MountDevice(busyDevice(threeDies, 4).Flash, 4)
+	mem, _ := impl.InsertMem(exampleMem(), putAt(4, "b", "z"))
 	levelled, wiped := levelWear(goodWear(2, []int64{7, 1, 3}, []int64{0, 1, 0})), impl.WipeCells(cellsOf(255, 10))
 	for page := range int64(50) {
 		impl.Scramble(page, "other calls")
@@ -730,7 +766,12 @@ func TestP1Order(t *testing.T) {
 		impl.AppendZone(device, page%4, "other calls")
 		impl.ResetZone(device, page%4)
 		impl.MountDevice(f, 1+page%4)
+		impl.SortRecords(slices.Concat(mem, damagedRecords, someRecords[page%4:]))
+		impl.InsertMem(mem, putAt(page, "b", "other calls"))
+		impl.TruncateMem(mem, page%6)
 	}
+	memAgain, _ := impl.InsertMem(exampleMem(), putAt(4, "b", "z"))
+	expectRecords(t, "InsertMem after other calls", mem, memAgain)
 	deviceAgain, _ := impl.MountDevice(busyDevice(threeDies, 4).Flash, 4)
 	expect(t, "MountDevice after other calls", sameDevices(device, deviceAgain), true)
 	expectWear(t, "LevelWear after other calls", levelWear(goodWear(2, []int64{7, 1, 3}, []int64{0, 1, 0})), levelled)
